@@ -1,0 +1,29 @@
+// Package value tells what counts of a value: see DOC.md, chapter 7.
+package value
+
+import (
+	"strings"
+
+	"boathouse/api"
+)
+
+// Plain answers a value with its kind's field alone, null for a kind that there
+// is none of. So values are one just where their plain ones are equal.
+func Plain(v api.Value) api.Value {
+	switch v.Kind {
+	case api.KindInt:
+		return api.Value{Kind: api.KindInt, I: v.I}
+	case api.KindBool:
+		return api.Value{Kind: api.KindBool, B: v.B}
+	case api.KindText:
+		return api.Value{Kind: api.KindText, S: v.S}
+	}
+	return api.Value{}
+}
+
+// Copy answers a value's plain one, its text in memory of its own.
+func Copy(v api.Value) api.Value {
+	plain := Plain(v)
+	plain.S = strings.Clone(plain.S)
+	return plain
+}

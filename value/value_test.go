@@ -1,0 +1,60 @@
+package value_test
+
+import (
+	"math"
+	"strings"
+	"testing"
+	"unsafe"
+
+	"boathouse/api"
+	"boathouse/value"
+)
+
+// full answers a value of a kind with every field set.
+func full(kind int) api.Value {
+	return api.Value{Kind: kind, I: 7, B: true, S: "x"}
+}
+
+func TestOfEachKindItsFieldAlone(t *testing.T) {
+	for _, c := range []struct{ v, want api.Value }{
+		{api.Value{}, api.Value{}},
+		{full(api.KindNull), api.Value{}},
+		{full(api.KindInt), api.Value{Kind: api.KindInt, I: 7}},
+		{full(api.KindBool), api.Value{Kind: api.KindBool, B: true}},
+		{full(api.KindText), api.Value{Kind: api.KindText, S: "x"}},
+		{api.Value{Kind: api.KindInt, I: math.MinInt}, api.Value{Kind: api.KindInt, I: math.MinInt}},
+		{api.Value{Kind: api.KindInt, B: true, S: "x"}, api.Value{Kind: api.KindInt}},
+		{api.Value{Kind: api.KindBool, I: 7, S: "x"}, api.Value{Kind: api.KindBool}},
+		{api.Value{Kind: api.KindText, I: 7, B: true}, api.Value{Kind: api.KindText}},
+		{api.Value{Kind: api.KindText, S: "\xff\x00"}, api.Value{Kind: api.KindText, S: "\xff\x00"}},
+	} {
+		if got := value.Plain(c.v); got != c.want {
+			t.Errorf("Plain(%v): %v, not %v", c.v, got, c.want)
+		}
+		if got := value.Copy(c.v); got != c.want {
+			t.Errorf("Copy(%v): %v, not %v", c.v, got, c.want)
+		}
+	}
+}
+
+func TestOfNoKindNull(t *testing.T) {
+	for _, kind := range []int{-1, -2, -3, 4, 5, 9, 255, 256, 257, 258, 259, 1 << 32, 1<<32 + 1, 1<<32 + 3, math.MaxInt, math.MinInt, math.MinInt + 1} {
+		if got := value.Plain(full(kind)); got != (api.Value{}) {
+			t.Errorf("Plain of kind %d: %v", kind, got)
+		}
+		if got := value.Copy(full(kind)); got != (api.Value{}) {
+			t.Errorf("Copy of kind %d: %v", kind, got)
+		}
+	}
+}
+
+func TestACopysTextIsItsOwn(t *testing.T) {
+	for _, s := range []string{"a", "ab\x00", strings.Repeat("x", api.MaxText)} {
+		held := []byte(s)
+		v := value.Copy(api.Value{Kind: api.KindText, S: unsafe.String(&held[0], len(held))})
+		held[0] ^= 0xff
+		if v.S != s {
+			t.Errorf("a text of %d bytes is shared", len(s))
+		}
+	}
+}
