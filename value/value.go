@@ -21,6 +21,11 @@ func Plain(v api.Value) api.Value {
 	return api.Value{}
 }
 
+// IsNull tells whether a value is null, of a kind that there is none of too.
+func IsNull(v api.Value) bool {
+	return Plain(v) == api.Value{}
+}
+
 // Copy answers a value's plain one, its text in memory of its own.
 func Copy(v api.Value) api.Value {
 	plain := Plain(v)

@@ -18,6 +18,9 @@ func full(kind int) api.Value {
 func TestOfEachKindItsFieldAlone(t *testing.T) {
 	for _, c := range []struct{ v, want api.Value }{
 		{api.Value{}, api.Value{}},
+		{api.Value{Kind: api.KindInt}, api.Value{Kind: api.KindInt}},
+		{api.Value{Kind: api.KindBool}, api.Value{Kind: api.KindBool}},
+		{api.Value{Kind: api.KindText}, api.Value{Kind: api.KindText}},
 		{full(api.KindNull), api.Value{}},
 		{full(api.KindInt), api.Value{Kind: api.KindInt, I: 7}},
 		{full(api.KindBool), api.Value{Kind: api.KindBool, B: true}},
@@ -34,6 +37,9 @@ func TestOfEachKindItsFieldAlone(t *testing.T) {
 		if got := value.Copy(c.v); got != c.want {
 			t.Errorf("Copy(%v): %v, not %v", c.v, got, c.want)
 		}
+		if got := value.IsNull(c.v); got != (c.want.Kind == api.KindNull) {
+			t.Errorf("IsNull(%v): %v", c.v, got)
+		}
 	}
 }
 
@@ -44,6 +50,9 @@ func TestOfNoKindNull(t *testing.T) {
 		}
 		if got := value.Copy(full(kind)); got != (api.Value{}) {
 			t.Errorf("Copy of kind %d: %v", kind, got)
+		}
+		if !value.IsNull(full(kind)) {
+			t.Errorf("IsNull of kind %d: false", kind)
 		}
 	}
 }
