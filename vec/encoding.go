@@ -6,6 +6,7 @@ import (
 	"boathouse/api"
 	"boathouse/bitpack"
 	"boathouse/cell"
+	"boathouse/parts"
 	"boathouse/runs"
 	"boathouse/words"
 )
@@ -16,16 +17,16 @@ const truthBits = 1
 // encoding is one way to write values that are not null, and to read so many of them again.
 type encoding struct {
 	put func(vs []api.Value) string
-	get func(r *reader, many int) []api.Value
+	get func(r *parts.Reader, many int) []api.Value
 }
 
 // encodings answers the ways to write a kind's values, each at its number's place: here alone they are told apart.
 func encodings(kind int) []encoding {
-	one := func(r *reader) api.Value { return r.value(kind) }
+	one := func(r *parts.Reader) api.Value { return r.Value(kind) }
 	ways := []encoding{
-		api.EncPlain: {putEach, func(r *reader, many int) []api.Value { return each(r, many, one) }},
-		api.EncRuns:  {putRuns, func(r *reader, many int) []api.Value { return getRuns(r, many, one) }},
-		api.EncWords: {putWords, func(r *reader, many int) []api.Value { return getWords(r, many, one) }},
+		api.EncPlain: {putEach, func(r *parts.Reader, many int) []api.Value { return each(r, many, one) }},
+		api.EncRuns:  {putRuns, func(r *parts.Reader, many int) []api.Value { return getRuns(r, many, one) }},
+		api.EncWords: {putWords, func(r *parts.Reader, many int) []api.Value { return getWords(r, many, one) }},
 	}
 	if kind == api.KindBool {
 		ways[api.EncPlain] = encoding{putTruths, getTruths}
@@ -55,10 +56,10 @@ func putEach(vs []api.Value) string {
 }
 
 // each answers so many values, read one behind the other.
-func each(r *reader, many int, one func(r *reader) api.Value) []api.Value {
+func each(r *parts.Reader, many int, one func(r *parts.Reader) api.Value) []api.Value {
 	var vs []api.Value
 	// A broken reader stands still: it would look for each value that is missing at the same place.
-	for len(vs) < many && !r.broken {
+	for len(vs) < many && !r.Broken() {
 		vs = append(vs, one(r))
 	}
 	return vs
@@ -76,9 +77,9 @@ func putTruths(vs []api.Value) string {
 }
 
 // getTruths answers so many truths.
-func getTruths(r *reader, many int) []api.Value {
+func getTruths(r *parts.Reader, many int) []api.Value {
 	var vs []api.Value
-	for _, bit := range r.packed(many, truthBits) {
+	for _, bit := range r.Packed(many, truthBits) {
 		vs = append(vs, api.Value{Kind: api.KindBool, B: bit == 1})
 	}
 	return vs
@@ -88,24 +89,24 @@ func getTruths(r *reader, many int) []api.Value {
 func putRuns(vs []api.Value) string {
 	many, values := runs.Cut(vs)
 	var s strings.Builder
-	s.WriteString(count(len(many)))
+	s.WriteString(parts.Count(len(many)))
 	for i, v := range values {
-		s.WriteString(count(many[i]))
+		s.WriteString(parts.Count(many[i]))
 		s.WriteString(cell.Put(v))
 	}
 	return s.String()
 }
 
 // getRuns answers the values of runs that come to so many.
-func getRuns(r *reader, many int, one func(r *reader) api.Value) []api.Value {
+func getRuns(r *parts.Reader, many int, one func(r *parts.Reader) api.Value) []api.Value {
 	var lengths []int
-	numbered := func(r *reader) api.Value {
-		lengths = append(lengths, r.count(many))
+	numbered := func(r *parts.Reader) api.Value {
+		lengths = append(lengths, r.Count(many))
 		return one(r)
 	}
-	values := each(r, r.count(many), numbered)
+	values := each(r, r.Count(many), numbered)
 	vs, e := runs.Join(lengths, values)
-	r.hold(e == api.OK && len(vs) == many)
+	r.Hold(e == api.OK && len(vs) == many)
 	return vs
 }
 
@@ -115,14 +116,14 @@ func getRuns(r *reader, many int, one func(r *reader) api.Value) []api.Value {
 // left out are never met.
 func putWords(vs []api.Value) string {
 	ws, at := words.Build(vs)
-	return count(len(ws)) + putEach(ws) + packed(at, placeBits(ws))
+	return parts.Count(len(ws)) + putEach(ws) + packed(at, placeBits(ws))
 }
 
 // getWords answers the words at so many places.
-func getWords(r *reader, many int, one func(r *reader) api.Value) []api.Value {
-	ws := each(r, r.count(many), one)
-	vs, e := words.Look(ws, r.packed(many, placeBits(ws)))
-	r.hold(e == api.OK)
+func getWords(r *parts.Reader, many int, one func(r *parts.Reader) api.Value) []api.Value {
+	ws := each(r, r.Count(many), one)
+	vs, e := words.Look(ws, r.Packed(many, placeBits(ws)))
+	r.Hold(e == api.OK)
 	return vs
 }
 
