@@ -1,4 +1,4 @@
-// Package value tells what counts of a value: see DOC.md, chapter 7.
+// Package value tells what counts of a value, and of which kinds a column's are: see DOC.md, chapters 7 and 9.
 package value
 
 import (
@@ -19,6 +19,11 @@ func Plain(v api.Value) api.Value {
 		return api.Value{Kind: api.KindText, S: v.S}
 	}
 	return api.Value{}
+}
+
+// IsKind tells whether a column may be of a kind: null is none of a column's own.
+func IsKind(kind int) bool {
+	return kind == api.KindInt || kind == api.KindBool || kind == api.KindText
 }
 
 // IsNull tells whether a value is null, of a kind that there is none of too.

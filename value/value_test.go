@@ -54,6 +54,17 @@ func TestOfNoKindNull(t *testing.T) {
 		if !value.IsNull(full(kind)) {
 			t.Errorf("IsNull of kind %d: false", kind)
 		}
+		if value.IsKind(kind) {
+			t.Errorf("IsKind(%d): true", kind)
+		}
+	}
+}
+
+func TestKindsOfColumns(t *testing.T) {
+	for kind, want := range map[int]bool{api.KindNull: false, api.KindInt: true, api.KindBool: true, api.KindText: true} {
+		if got := value.IsKind(kind); got != want {
+			t.Errorf("IsKind(%d): %v", kind, got)
+		}
 	}
 }
 
