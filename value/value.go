@@ -31,6 +31,11 @@ func IsNull(v api.Value) bool {
 	return Plain(v) == api.Value{}
 }
 
+// IsOf tells whether a column of a kind may hold a value: null or one of that kind.
+func IsOf(v api.Value, kind int) bool {
+	return IsNull(v) || v.Kind == kind
+}
+
 // Copy answers a value's plain one, its text in memory of its own.
 func Copy(v api.Value) api.Value {
 	plain := Plain(v)

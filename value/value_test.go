@@ -68,6 +68,23 @@ func TestKindsOfColumns(t *testing.T) {
 	}
 }
 
+// A column holds values of its kind and nulls, of a kind that there is none of too, whatever else they hold.
+func TestValuesOfColumns(t *testing.T) {
+	kinds := []int{api.KindInt, api.KindBool, api.KindText}
+	for _, kind := range append(kinds, api.KindNull, 4, -1, 255, 1<<32+1) {
+		for _, own := range append(kinds, api.KindNull) {
+			if got, want := value.IsOf(full(own), kind), own == kind || own == api.KindNull; got != want {
+				t.Errorf("IsOf(kind %d, %d): %v", own, kind, got)
+			}
+		}
+		for _, own := range []int{-1, 4, 9, 255, 257, 258, 259, 1<<32 + 1, math.MaxInt, math.MinInt, math.MinInt + 1} {
+			if !value.IsOf(full(own), kind) {
+				t.Errorf("IsOf(kind %d, %d): false", own, kind)
+			}
+		}
+	}
+}
+
 func TestACopysTextIsItsOwn(t *testing.T) {
 	for _, s := range []string{"a", "ab\x00", strings.Repeat("x", api.MaxText)} {
 		held := []byte(s)
