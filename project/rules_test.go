@@ -190,7 +190,7 @@ func TestMemoryIsApart(t *testing.T) {
 		columns := of(column(1, "a", api.KindText), column(2, "b", api.KindText), column(3, "c", api.KindText))
 		d := file(list{1, api.KindText, values(v, other, v)}, list{2, api.KindText, values(v, v, other)})
 		rs := rows(row(v, other, null()), row(v, v, v))
-		names := []string{"b", "a", "b", "c"}
+		names := []string{"b", "a", "c", "b"}
 		// What an argument has twice may well stand there once: the arguments are one thing.
 		given := slices.Concat(ofRows(rs), ofRows(d.Values), []span{ofList(d.Columns), ofList(columns.Columns), ofList(names)})
 		var made []span
